@@ -65,12 +65,14 @@ func areaIn(d impl.Disk) impl.AreaOut {
 	}
 	var all strings.Builder
 	for i := range int64(half(d)) {
-		all.WriteString(readIn(d, 1+side*int64(half(d))+i))
+		data := readIn(d, 1+side*int64(half(d))+i)
+		here := max(0, min(size-i*impl.SectorSize, impl.SectorSize))
+		if int64(len(data)) < here {
+			return impl.AreaOut{Code: impl.ErrSum}
+		}
+		all.WriteString(data[:here])
 	}
-	if int64(all.Len()) < size {
-		return impl.AreaOut{Code: impl.ErrSum}
-	}
-	return impl.AreaOut{Disk: d, Text: all.String()[:size], Gen: gen}
+	return impl.AreaOut{Disk: d, Text: all.String(), Gen: gen}
 }
 
 func sideIn(d impl.Disk) int {
@@ -403,13 +405,76 @@ func TestAreaReadOfSidesThatHaveMore(t *testing.T) {
 	}
 }
 
-// What counts is how many bytes the side has, in whichever of its sectors.
-func TestAreaReadCountsTheWholeSide(t *testing.T) {
+// Bytes behind a sector that has too few are not the text's, however many the
+// side has together.
+func TestAreaReadOfSidesThatAreNotFull(t *testing.T) {
 	d := impl.Disk{Sectors: []string{"", "no", "no", "no", "abc", "", "defgh", "no"}}
-	for size := range int64(9) {
-		wantRead(t, "sectors that are not full", withSector(d, 0, headBytes(1, 1, size)), "abcdefgh"[:size], 1)
+	for size := range int64(room(d) + 1) {
+		side := withSector(d, 0, headBytes(1, 1, size))
+		if size <= 3 {
+			wantRead(t, "in the first sector", side, "abc"[:size], 1)
+			continue
+		}
+		wantAreaCode(t, "not in the first sector", impl.AreaRead(side), impl.ErrSum)
+		for _, text := range []string{"", "new", mixed(1, room(d)+1)} {
+			for _, steps := range []int64{-1, 0, 1, allSteps} {
+				wantAreaCode(t, "put where a side lacks", impl.AreaPut(side, text, steps), impl.ErrSum)
+			}
+		}
 	}
-	wantAreaCode(t, "one byte more", impl.AreaRead(withSector(d, 0, headBytes(1, 1, 9))), impl.ErrSum)
+}
+
+// wantSectorNeeded: of the sector there the text needs its first bytes, so many.
+func wantSectorNeeded(t *testing.T, d impl.Disk, at int, need int, text string) {
+	t.Helper()
+	for _, size := range []int{0, 1, need - 1, need, min(need+1, impl.SectorSize), impl.SectorSize} {
+		cut := d.Sectors[at][:size]
+		flushed := withSector(d, at, cut)
+		pending := withPending(d, impl.Pending{At: int64(at), Data: "old"}, impl.Pending{At: int64(at), Data: cut})
+		for _, disk := range []impl.Disk{flushed, pending} {
+			if size < need {
+				wantAreaCode(t, "a sector among full ones lacks", impl.AreaRead(disk), impl.ErrSum)
+				wantAreaCode(t, "put where one lacks", impl.AreaPut(disk, "new", allSteps), impl.ErrSum)
+				continue
+			}
+			wantRead(t, "a sector has enough", disk, text, 4)
+			wantArea(t, "put where all have enough", impl.AreaPut(disk, "new", allSteps), putInto(disk, "new", allSteps))
+		}
+	}
+	healed := withPending(withSector(d, at, ""), impl.Pending{At: int64(at), Data: d.Sectors[at]})
+	wantRead(t, "what lacked is pending", healed, text, 4)
+}
+
+// Each sector that the text needs has too few bytes, just enough and more, while
+// all others of the disk are full.
+func TestAreaReadOfSectorsAmongFullOnes(t *testing.T) {
+	for _, sectors := range []int{3, 4, 7, 8, impl.MaxSectors} {
+		for side := range 2 {
+			whole := mixed(5, room(impl.DiskNew(int64(sectors))))
+			full := areaOf(sectors, 4, side, whole)
+			for _, other := range putTexts(full) {
+				text := whole[:len(other)]
+				d := withSector(full, 0, headBytes(4, int64(side), int64(len(text))))
+				for i := range needed(text) {
+					wantSectorNeeded(t, d, 1+side*half(d)+i, min(len(text)-i*impl.SectorSize, impl.SectorSize), text)
+				}
+			}
+		}
+	}
+}
+
+// A sector that the text does not need may have any bytes, or none.
+func TestAreaReadOfSectorsThatAreNotNeeded(t *testing.T) {
+	for side := range 2 {
+		for _, text := range putTexts(impl.DiskNew(9)) {
+			d := areaOf(9, 6, side, text)
+			for i := needed(text); i < half(d); i++ {
+				for _, data := range []string{"", "x", mixed(1, 63), mixed(2, impl.SectorSize)} {
+					wantRead(t, "behind the text", withSector(d, 1+side*half(d)+i, data), text, 6)
+				}
+			}
+		}
+	}
 }
 
 // Of an even number of sectors the last one is in no side.

@@ -180,6 +180,32 @@ func GetText(text string, at int64) TextOut {
 	return TextOut{Text: t, At: behind, Code: codeOf(err)}
 }
 
+// bytesReader reads one thing behind the other. Behind the first fault it tells
+// zero values only, so that who reads much asks once, at the end.
+type bytesReader struct {
+	from string
+	at   int64
+	err  error
+}
+
+func (r *bytesReader) num() int64 {
+	if r.err != nil {
+		return 0
+	}
+	var n int64
+	n, r.at, r.err = readNum(r.from, r.at)
+	return n
+}
+
+func (r *bytesReader) text() string {
+	if r.err != nil {
+		return ""
+	}
+	var t string
+	t, r.at, r.err = readText(r.from, r.at)
+	return t
+}
+
 func isLower(b byte) bool {
 	return b >= 'a' && b <= 'z'
 }
